@@ -2,6 +2,7 @@ package convert
 
 import (
 	"swingbridge/api"
+	"swingbridge/refusal"
 	"swingbridge/schema"
 )
 
@@ -17,7 +18,7 @@ type conversion struct {
 func (w ways) between(from, to api.Column) (conversion, error) {
 	for _, c := range [2]api.Column{from, to} {
 		if schema.Fits(c, api.Value{}) == api.ErrArg {
-			return conversion{}, &misfit{"a column that may not be", api.ErrArg}
+			return conversion{}, refusal.Of("a column that may not be", api.ErrArg)
 		}
 	}
 	way, is := w[[2]api.TypeKind{from.Type, to.Type}]
@@ -34,7 +35,7 @@ func (w ways) convert(from, to api.Column, v api.Value) (api.Value, error) {
 
 func (w ways) row(from, to []api.Column, row ...api.Value) ([]api.Value, error) {
 	if len(to) != len(from) || len(row) != len(from) {
-		return nil, &misfit{"not as many columns, or values, as columns at first", api.ErrCount}
+		return nil, refusal.Of("not as many columns, or values, as columns at first", api.ErrCount)
 	}
 	l := make([]api.Value, len(row))
 	for at, v := range row {
@@ -54,17 +55,17 @@ func (c conversion) sure() bool {
 // convert asks for the way ahead of null, too: where there is none, nothing goes.
 func (c conversion) convert(v api.Value) (api.Value, error) {
 	if e := schema.Fits(c.from, v); e != api.OK {
-		return api.Value{}, &misfit{"a value that does not fit its column", e}
+		return api.Value{}, refusal.Of("a value that does not fit its column", e)
 	}
 	if !c.is {
-		return api.Value{}, &misfit{"no way between the types", api.ErrWay}
+		return api.Value{}, refusal.Of("no way between the types", api.ErrWay)
 	}
 	converted, ok := v, true
 	if v.Kind != api.ValueNull {
 		converted, ok = c.way.turn(v)
 	}
 	if !ok || schema.Fits(c.Column, converted) != api.OK {
-		return api.Value{}, &misfit{"what does not fit the other column", api.ErrOver}
+		return api.Value{}, refusal.Of("what does not fit the other column", api.ErrOver)
 	}
 	return converted, nil
 }

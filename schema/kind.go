@@ -4,6 +4,7 @@ import (
 	"math"
 
 	"swingbridge/api"
+	"swingbridge/refusal"
 	"swingbridge/value"
 )
 
@@ -34,7 +35,7 @@ func types() kinds {
 func (k kinds) column(c api.Column) error {
 	t, ok := k[c.Type]
 	if !ok || !t.sizes(c.Size) || !isName(c.Name) {
-		return &misfit{"a column that may not be", api.ErrArg}
+		return refusal.Of("a column that may not be", api.ErrArg)
 	}
 	return nil
 }
@@ -42,18 +43,18 @@ func (k kinds) column(c api.Column) error {
 // fit asks whether a value fits a column that may be.
 func (k kinds) fit(c api.Column, v api.Value) error {
 	if e := value.Check(v); e != api.OK {
-		return &misfit{"a value that may not be", e}
+		return refusal.Of("a value that may not be", e)
 	}
 	t := k[c.Type]
 	switch {
 	case v.Kind == api.ValueNull && c.Null:
 		return nil
 	case v.Kind == api.ValueNull:
-		return &misfit{"null, where that may not be", api.ErrNull}
+		return refusal.Of("null, where that may not be", api.ErrNull)
 	case v.Kind != t.values:
-		return &misfit{"of another type", api.ErrType}
+		return refusal.Of("of another type", api.ErrType)
 	case !t.bounds(c.Size)(v):
-		return &misfit{"too great for the column", api.ErrSize}
+		return refusal.Of("too great for the column", api.ErrSize)
 	}
 	return nil
 }

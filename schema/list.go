@@ -4,6 +4,7 @@ import (
 	"slices"
 
 	"swingbridge/api"
+	"swingbridge/refusal"
 )
 
 // pick picks the things at these places, in this order.
@@ -11,7 +12,7 @@ func pick[T any](l []T, at ...int) ([]T, error) {
 	picked := make([]T, len(at))
 	for i, place := range at {
 		if place < 0 || place >= len(l) {
-			return nil, &misfit{"a place that is not there", api.ErrRange}
+			return nil, refusal.Of("a place that is not there", api.ErrRange)
 		}
 		picked[i] = l[place]
 	}

@@ -5,6 +5,7 @@ import (
 	"slices"
 
 	"swingbridge/api"
+	"swingbridge/refusal"
 )
 
 // mostPlaces is of how many columns a set is, at most.
@@ -82,7 +83,7 @@ func (l look) row(row ...api.Value) error {
 		return err
 	}
 	if len(row) != len(l.Columns) {
-		return &misfit{"a row of another length", api.ErrCount}
+		return refusal.Of("a row of another length", api.ErrCount)
 	}
 	for at, v := range row {
 		if err := l.fit(l.Columns[at], v); err != nil {
@@ -92,4 +93,4 @@ func (l look) row(row ...api.Value) error {
 	return nil
 }
 
-func refuse(what string) error { return &misfit{what, api.ErrArg} }
+func refuse(what string) error { return refusal.Of(what, api.ErrArg) }

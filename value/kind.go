@@ -6,6 +6,7 @@ import (
 	"strings"
 
 	"swingbridge/api"
+	"swingbridge/refusal"
 )
 
 // Texts of values, and what stands around them.
@@ -38,10 +39,10 @@ func kinds() map[api.ValueKind]kind {
 func check(v api.Value) error {
 	k, ok := kinds()[v.Kind]
 	if !ok || v != k.only(v) {
-		return &none{"a value that may not be", api.ErrArg}
+		return refusal.Of("a value that may not be", api.ErrArg)
 	}
 	if len(v.Bytes) > api.MaxBytes {
-		return &none{"too many bytes", api.ErrLong}
+		return refusal.Of("too many bytes", api.ErrLong)
 	}
 	return nil
 }
@@ -57,7 +58,7 @@ func text(v api.Value) (string, error) {
 func parse(s string) (api.Value, error) {
 	v, ok := kinds()[kindOf(s)].read(s)
 	if !ok {
-		return api.Value{}, &none{"no value's text", api.ErrText}
+		return api.Value{}, refusal.Of("no value's text", api.ErrText)
 	}
 	if err := check(v); err != nil {
 		return api.Value{}, err

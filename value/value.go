@@ -7,13 +7,14 @@ import (
 	"strings"
 
 	"swingbridge/api"
+	"swingbridge/refusal"
 )
 
 // apart stands between the values of a row's text. No value's text has a comma, so it parts nothing else.
 const apart = ", "
 
 // Check tells whether a value may be: ErrArg, ErrLong, or OK.
-func Check(v api.Value) api.Errno { return errno(check(v)) }
+func Check(v api.Value) api.Errno { return refusal.Errno(check(v)) }
 
 // Order tells -1, 0 or 1. What a Kind does not name is zero in every value that may be, so one order of all fields is that of both the values that may be and those that may not.
 func Order(a, b api.Value) int {
@@ -31,13 +32,13 @@ func Lists(a, b []api.Value) int { return hold(a, b, Order) }
 // Text tells a value's text: ErrArg, ErrLong.
 func Text(v api.Value) (string, api.Errno) {
 	s, err := text(v)
-	return s, errno(err)
+	return s, refusal.Errno(err)
 }
 
 // Parse tells the value whose text s is: ErrText, ErrLong.
 func Parse(s string) (api.Value, api.Errno) {
 	v, err := parse(s)
-	return v, errno(err)
+	return v, refusal.Errno(err)
 }
 
 // Row tells the texts of values, a comma and a blank between: ErrArg, ErrLong of the first one that is wrong.
@@ -46,7 +47,7 @@ func Row(l ...api.Value) (string, api.Errno) {
 	for i, v := range l {
 		s, err := text(v)
 		if err != nil {
-			return "", errno(err)
+			return "", refusal.Errno(err)
 		}
 		texts[i] = s
 	}
