@@ -3,12 +3,13 @@ package codec
 import (
 	"swingbridge/api"
 	"swingbridge/octet"
+	"swingbridge/reading"
 )
 
 // kind is how the values of one Type that are not null are laid, and read, in columns of a Size of theirs, and how many bytes they have then.
 type kind struct {
 	lay   func(size int, v api.Value) []byte
-	read  func(r *reader, size int) api.Value
+	read  func(r *reading.Reader, size int) api.Value
 	width func(size int) (least, most int)
 }
 
@@ -32,28 +33,28 @@ func widthNumber(size int) (least, most int) { return size, size }
 
 func layInt(size int, v api.Value) []byte { return layNumber(size, uint64(v.Int)) }
 
-func readInt(r *reader, size int) api.Value {
+func readInt(r *reading.Reader, size int) api.Value {
 	return api.Value{Kind: api.ValueInt, Int: fixed[int64](r, size)}
 }
 
 func layUint(size int, v api.Value) []byte { return layNumber(size, v.Uint) }
 
-func readUint(r *reader, size int) api.Value {
+func readUint(r *reading.Reader, size int) api.Value {
 	return api.Value{Kind: api.ValueUint, Uint: fixed[uint64](r, size)}
 }
 
 func layBool(_ int, v api.Value) []byte { return []byte{byte(v.Int)} }
 
-func readBool(r *reader, _ int) api.Value {
-	return api.Value{Kind: api.ValueBool, Int: int64(r.bit())}
+func readBool(r *reading.Reader, _ int) api.Value {
+	return api.Value{Kind: api.ValueBool, Int: int64(bit(r))}
 }
 
 func widthBool(int) (least, most int) { return 1, 1 }
 
 func layBytes(_ int, v api.Value) []byte { return octet.Text(v.Bytes) }
 
-func readBytes(r *reader, size int) api.Value {
-	return api.Value{Kind: api.ValueBytes, Bytes: r.text(size)}
+func readBytes(r *reading.Reader, size int) api.Value {
+	return api.Value{Kind: api.ValueBytes, Bytes: r.Text(size)}
 }
 
 func widthBytes(size int) (least, most int) {

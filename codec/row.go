@@ -1,6 +1,10 @@
 package codec
 
-import "swingbridge/api"
+import (
+	"swingbridge/api"
+	"swingbridge/reading"
+	"swingbridge/refusal"
+)
 
 // What stands in each column's place ahead of all else.
 const (
@@ -31,14 +35,14 @@ func (l layout) lay(row ...api.Value) []byte {
 }
 
 // read takes the bytes of one row. Each value is asked for as it is read, so what is read fits.
-func (l layout) read(r *reader) []api.Value {
+func (l layout) read(r *reading.Reader) []api.Value {
 	row := make([]api.Value, len(l.columns))
 	for at, c := range l.columns {
 		switch {
-		case r.bit() == follows:
+		case bit(r) == follows:
 			row[at] = l.kinds[c.Type].read(r, c.Size)
 		case !c.Null:
-			panic(none("null, where that may not be"))
+			refusal.GiveUp("null, where that may not be", api.ErrCode)
 		}
 	}
 	return row

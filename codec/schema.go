@@ -3,6 +3,8 @@ package codec
 import (
 	"swingbridge/api"
 	"swingbridge/octet"
+	"swingbridge/reading"
+	"swingbridge/refusal"
 	"swingbridge/schema"
 )
 
@@ -39,26 +41,24 @@ func truth(is bool) int {
 }
 
 // readSchema takes the bytes of a schema. Its own bounds only keep it from taking more than a schema has: what may be, layer 3 says.
-func readSchema(r *reader) api.Schema {
+func readSchema(r *reading.Reader) api.Schema {
 	var s api.Schema
-	s.Columns = several(r, api.MaxColumns, readColumn)
+	s.Columns = reading.Several(r, api.MaxColumns, readColumn)
 	s.Key = readPlaces(r)
-	s.Uniques = several(r, api.MaxUniques, readPlaces)
-	if schema.Check(s) != api.OK {
-		panic(none("a schema that may not be"))
-	}
+	s.Uniques = reading.Several(r, api.MaxUniques, readPlaces)
+	refusal.Grant("a schema that may not be", schema.Check(s))
 	return s
 }
 
-func readColumn(r *reader) api.Column {
+func readColumn(r *reading.Reader) api.Column {
 	var c api.Column
-	c.Name = r.text(api.MaxName)
-	c.Type = number(r, api.TypeBytes)
-	c.Size = number(r, api.MaxBytes)
-	c.Null = number(r, 1) == 1
+	c.Name = r.Text(api.MaxName)
+	c.Type = reading.Number(r, api.TypeBytes)
+	c.Size = reading.Number(r, api.MaxBytes)
+	c.Null = reading.Number(r, 1) == 1
 	return c
 }
 
-func readPlaces(r *reader) []int { return several(r, api.MaxColumns, readPlace) }
+func readPlaces(r *reading.Reader) []int { return reading.Several(r, api.MaxColumns, readPlace) }
 
-func readPlace(r *reader) int { return number(r, api.MaxColumns) }
+func readPlace(r *reading.Reader) int { return reading.Number(r, api.MaxColumns) }
